@@ -1,4 +1,4 @@
-// Package holding is what layers 11, 13 and 14 have in common in how they hold sectors of a heap (layer 10).
+// Package holding is what layers 11 and 13 to 15 have in common in how they hold sectors of a heap (layer 10).
 // It calls layers 3 and 10.
 package holding
 
@@ -16,7 +16,7 @@ func Whole(h *heap.Heap, run func()) {
 }
 
 // Put: a sector that has these bytes. A heap may begin with sector 0, but who lies there would be told
-// as one that is all noughts: so the next one is taken.
+// as one that is all noughts, or that isn't there: so the next one is taken.
 func Put(h *heap.Heap, s string) int {
 	at := 0
 	Whole(h, func() {

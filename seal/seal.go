@@ -1,5 +1,5 @@
 // Package seal is what sectors have in common whose last bytes are the sum (layer 2) of those ahead: an
-// extent's head (layer 11), a node (layer 12). It calls layers 2 and 3.
+// extent's head (layer 11), a node (layer 12), a catalog's entry (layer 15). It calls layers 2 and 3.
 package seal
 
 import (
