@@ -1,4 +1,4 @@
-// Package holding is what layers 11 and 13 to 15 have in common in how they hold sectors of a heap (layer 10).
+// Package holding is what layers 11, 13 to 15 and 18 have in common in how they hold sectors of a heap (layer 10).
 // It calls layers 3 and 10.
 package holding
 
