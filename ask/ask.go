@@ -1,4 +1,4 @@
-// Package ask is what layers 20, 22 and 23 have in common in how they ask an archive (layer 19) what lies in it.
+// Package ask is what layers 20 and 22 to 24 have in common in how they ask an archive (layer 19) what lies in it.
 // It calls layers 3, 15 and 19.
 package ask
 
